@@ -87,6 +87,9 @@ func TestWrong(t *testing.T) {
 		if e, err := odds.Edges(k.h); plain.Told(err) != k.err || len(e) > 0 {
 			t.Errorf("Edges, %s: got %v %v, want %v", k.name, e, err, k.err)
 		}
+		if n, err := odds.Names(k.h); plain.Told(err) != k.err || len(n) > 0 {
+			t.Errorf("Names, %s: got %v %v, want %v", k.name, n, err, k.err)
+		}
 		for _, i := range []int{-1, 0, 1, len(k.h) - 1, len(k.h), math.MinInt, math.MaxInt} {
 			if s, err := odds.Swap(k.h, i); plain.Told(err) != k.err || len(s) > 0 {
 				t.Errorf("Swap, %s, at %d: got %v %v, want %v", k.name, i, s, err, k.err)
@@ -345,6 +348,29 @@ func TestSameMany(t *testing.T) {
 	}
 	if is, err := odds.Same(h, h[:last]); err != nil || is {
 		t.Errorf("one fewer: got %v %v", is, err)
+	}
+}
+
+// TestNames: each op has a name of its own, that tells which of its deal's ops it is, whoever goes between.
+func TestNames(t *testing.T) {
+	for _, k := range []struct {
+		text string
+		want []int
+	}{
+		{"", nil},
+		{"r1(a)", []int{0}},
+		{"r1(a) r1(a) r1(a) c1", []int{0, 1, 2, 3}},
+		{"r1(a) w2(a) r1(a) c2 a1 w6(f)", []int{0, 0, 1, 1, 2, 0}},
+		{"w6(f) w5(f) w6(f) w5(f) w6(f)", []int{0, 0, 1, 1, 2}},
+	} {
+		h := ops(t, k.text)
+		var want []odds.Name
+		for at, nth := range k.want {
+			want = append(want, odds.Name{Op: h[at], Nth: nth})
+		}
+		if got, err := odds.Names(h); err != nil || !slices.Equal(got, want) {
+			t.Errorf("%q: got %v %v, want %v", k.text, got, err, want)
+		}
 	}
 }
 
