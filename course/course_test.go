@@ -1,0 +1,102 @@
+package course_test
+
+import (
+	"fmt"
+	"slices"
+	"strings"
+	"testing"
+
+	"locklane/api"
+	"locklane/course"
+	"locklane/history"
+	"locklane/plain"
+)
+
+// ops of a text that is right.
+func ops(t *testing.T, text string) []api.Op {
+	t.Helper()
+	l, err := history.Parse(text)
+	if err != nil {
+		t.Fatalf("%q: %v", text, err)
+	}
+	return l
+}
+
+// TestRules: the rules are asked just where it is theirs to say, and what they say is done.
+func TestRules(t *testing.T) {
+	for _, k := range []struct {
+		ops, asked string
+		out        api.Outcome
+	}{
+		{"", "", api.Outcome{Last: []int{0, 0, 0, 0, 0, 0}}},
+		// Sees: of what a deal did not write itself.
+		{"r1(a) w1(a) r1(a) r1(b) c1", "see 1 1, see 1 2, fall 1",
+			api.Outcome{Done: []int{1}, Seen: []api.Seen{{Tx: 1, Item: 1, From: 5}, {Tx: 1, Item: 1, From: 1}, {Tx: 1, Item: 2, From: 5}}, Last: []int{1, 0, 0, 0, 0, 0}}},
+		// Falls: of a Commit alone. 2 falls by it.
+		{"w2(a) w3(a) a3 w4(b) c2 w1(c) c1", "fall 2, fall 1",
+			api.Outcome{Done: []int{1}, Last: []int{0, 0, 1, 0, 0, 0}}},
+		{"r2(a) r4(a) c4 c2", "see 2 1, see 4 1, fall 4, fall 2",
+			api.Outcome{Done: []int{4}, Seen: []api.Seen{{Tx: 4, Item: 1, From: 5}}, Last: []int{0, 0, 0, 0, 0, 0}}},
+	} {
+		var asked []string
+		out, err := course.Run(ops(t, k.ops), course.Rules{
+			Sees: func(_ *course.Course, tx, item int) int {
+				asked = append(asked, fmt.Sprint("see ", tx, " ", item))
+				return 5
+			},
+			Falls: func(_ *course.Course, tx int) bool {
+				asked = append(asked, fmt.Sprint("fall ", tx))
+				return tx == 2
+			},
+		})
+		if err != nil || fmt.Sprint(out) != fmt.Sprint(k.out) || strings.Join(asked, ", ") != k.asked {
+			t.Errorf("%q: got %v %v by %q, want %v by %q", k.ops, out, err, asked, k.out, k.asked)
+		}
+	}
+}
+
+// TestWrong: Check's error is told, and no rule is asked.
+func TestWrong(t *testing.T) {
+	never := course.Rules{
+		Sees:  func(*course.Course, int, int) int { t.Error("asked what is seen"); return 0 },
+		Falls: func(*course.Course, int) bool { t.Error("asked who falls"); return false },
+	}
+	read := api.Op{Tx: 1, What: api.Read, Item: 1}
+	commit := api.Op{Tx: 1, What: api.Commit}
+	for _, k := range []struct {
+		l   []api.Op
+		err api.Errno
+	}{
+		{slices.Repeat([]api.Op{read}, api.MaxOps+1), api.ErrFull},
+		{[]api.Op{read, commit, {Tx: 2, What: api.Read}}, api.ErrRange},
+		{[]api.Op{read, commit, read}, api.ErrState},
+	} {
+		out, err := course.Run(k.l, never)
+		if plain.Told(err) != k.err || len(out.Done)+len(out.Seen)+len(out.Last) > 0 {
+			t.Errorf("%v: got %v %v, want %v", k.l, out, err, k.err)
+		}
+	}
+}
+
+// TestStands: what a rule is told of how the run stands; what it is given is its own.
+func TestStands(t *testing.T) {
+	var told []string
+	out, err := course.Run(ops(t, "w1(a) r3(b) w4(b) c1 w2(a) r2(c) c2 a4 w3(c) r3(a) c3"), course.Rules{
+		Sees: func(c *course.Course, _, item int) int { return c.Last(item) },
+		Falls: func(c *course.Course, tx int) bool {
+			since, read := c.Since(tx), c.Read(tx)
+			told = append(told, fmt.Sprint(tx, since, read, c.Wrote(tx, 1), c.Wrote(tx, 3), c.Last(1), c.Last(2)))
+			clear(since)
+			clear(read)
+			return false
+		},
+	})
+	want := []string{
+		"1 [] [] true false 0 0",
+		"2 [] [{2 3 0}] true false 1 0",
+		"3 [1 2] [{3 2 0} {3 1 2}] false true 2 0",
+	}
+	if err != nil || !slices.Equal(told, want) || fmt.Sprint(out) != "{[1 2 3] [{2 3 0} {3 2 0} {3 1 2}] [2 0 3 0 0 0]}" {
+		t.Errorf("got %q, then %v %v, want %q", told, out, err, want)
+	}
+}
