@@ -26,14 +26,23 @@ type Course struct {
 
 // Run ops, as deals ask for them: who is done, what these saw, and who wrote each item last.
 func Run(l []api.Op, rules Rules) (api.Outcome, error) {
-	if _, err := history.Check(l); err != nil {
+	c, err := Whole(l, rules)
+	if err != nil {
 		return api.Outcome{}, err
+	}
+	return c.outcome(), nil
+}
+
+// Whole is how a run of ops stands when all of them have come.
+func Whole(l []api.Op, rules Rules) (*Course, error) {
+	if _, err := history.Check(l); err != nil {
+		return nil, err
 	}
 	c := newCourse(rules)
 	for _, o := range l {
 		c.come(o)
 	}
-	return c.outcome(), nil
+	return c, nil
 }
 
 func newCourse(rules Rules) *Course {
@@ -45,18 +54,30 @@ func newCourse(rules Rules) *Course {
 	}
 }
 
-// Since a deal began these committed, in order.
+// Done are these, in the order in which they committed.
+func (c *Course) Done() []int { return slices.Clone(c.done) }
+
+// Since a deal began these committed, in order; itself too, once it is done.
 func (c *Course) Since(tx int) []int { return slices.Clone(c.done[c.began[tx]:]) }
 
 // Read by a deal was this, in its order.
 func (c *Course) Read(tx int) []api.Seen { return slices.Clone(c.read[tx]) }
 
+// Written by a deal were these items, in its order.
+func (c *Course) Written(tx int) []int { return slices.Clone(c.wrote[tx]) }
+
 // Wrote tells whether a deal wrote an item.
 func (c *Course) Wrote(tx, item int) bool { return slices.Contains(c.wrote[tx], item) }
 
 // Last who committed, of those that wrote an item; 0, if nobody did.
-func (c *Course) Last(item int) int {
-	for _, tx := range slices.Backward(c.done) {
+func (c *Course) Last(item int) int { return c.lastOf(c.done, item) }
+
+// LastBefore is Last as it was when a deal began.
+func (c *Course) LastBefore(tx, item int) int { return c.lastOf(c.done[:c.began[tx]], item) }
+
+// lastOf some that committed, in order, who wrote an item; 0, if nobody did.
+func (c *Course) lastOf(some []int, item int) int {
+	for _, tx := range slices.Backward(some) {
 		if c.Wrote(tx, item) {
 			return tx
 		}
@@ -96,7 +117,7 @@ func (c *Course) source(o api.Op) int {
 }
 
 func (c *Course) outcome() api.Outcome {
-	out := api.Outcome{Done: c.done}
+	out := api.Outcome{Done: c.Done()}
 	for _, tx := range c.done {
 		out.Seen = append(out.Seen, c.read[tx]...)
 	}

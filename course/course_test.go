@@ -75,6 +75,10 @@ func TestWrong(t *testing.T) {
 		if plain.Told(err) != k.err || len(out.Done)+len(out.Seen)+len(out.Last) > 0 {
 			t.Errorf("%v: got %v %v, want %v", k.l, out, err, k.err)
 		}
+		whole, err := course.Whole(k.l, never)
+		if plain.Told(err) != k.err || whole != nil {
+			t.Errorf("%v: whole: got %v %v, want %v", k.l, whole, err, k.err)
+		}
 	}
 }
 
@@ -84,19 +88,40 @@ func TestStands(t *testing.T) {
 	out, err := course.Run(ops(t, "w1(a) r3(b) w4(b) c1 w2(a) r2(c) c2 a4 w3(c) r3(a) c3"), course.Rules{
 		Sees: func(c *course.Course, _, item int) int { return c.Last(item) },
 		Falls: func(c *course.Course, tx int) bool {
-			since, read := c.Since(tx), c.Read(tx)
-			told = append(told, fmt.Sprint(tx, since, read, c.Wrote(tx, 1), c.Wrote(tx, 3), c.Last(1), c.Last(2)))
+			done, since, read, written := c.Done(), c.Since(tx), c.Read(tx), c.Written(tx)
+			told = append(told, fmt.Sprint(tx, done, since, read, written, c.Wrote(tx, 1), c.Wrote(tx, 3), c.Last(1), c.Last(2), c.LastBefore(tx, 1)))
+			clear(done)
 			clear(since)
 			clear(read)
+			clear(written)
 			return false
 		},
 	})
 	want := []string{
-		"1 [] [] true false 0 0",
-		"2 [] [{2 3 0}] true false 1 0",
-		"3 [1 2] [{3 2 0} {3 1 2}] false true 2 0",
+		"1 [] [] [] [1] true false 0 0 0",
+		"2 [1] [] [{2 3 0}] [1] true false 1 0 1",
+		"3 [1 2] [1 2] [{3 2 0} {3 1 2}] [3] false true 2 0 0",
 	}
 	if err != nil || !slices.Equal(told, want) || fmt.Sprint(out) != "{[1 2 3] [{2 3 0} {3 2 0} {3 1 2}] [2 0 3 0 0 0]}" {
 		t.Errorf("got %q, then %v %v, want %q", told, out, err, want)
+	}
+}
+
+// TestWhole: how a run stands when all ops have come: who is done committed since it began itself, and who is not did not.
+func TestWhole(t *testing.T) {
+	c, err := course.Whole(ops(t, "w1(a) r3(b) c1 w2(a) w2(c) w2(a) c3 a4 w5(a) c2"), course.Rules{
+		Sees:  func(*course.Course, int, int) int { return 0 },
+		Falls: func(*course.Course, int) bool { return false },
+	})
+	if err != nil {
+		t.Fatal(err)
+	}
+	told := fmt.Sprint(c.Done(), c.Since(1), c.Since(2), c.Since(3), c.Since(4), c.Since(5), c.Written(2), c.Written(3), c.Written(5), c.Last(1))
+	if told != "[1 3 2] [1 3 2] [3 2] [1 3 2] [2] [2] [1 3 1] [] [1] 2" {
+		t.Errorf("got %s", told)
+	}
+	before := fmt.Sprint(c.LastBefore(1, 1), c.LastBefore(2, 1), c.LastBefore(3, 1), c.LastBefore(5, 1), c.LastBefore(5, 3))
+	if before != "0 1 0 1 0" {
+		t.Errorf("got %s", before)
 	}
 }
