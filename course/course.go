@@ -60,6 +60,14 @@ func (c *Course) Done() []int { return slices.Clone(c.done) }
 // Since a deal began these committed, in order; itself too, once it is done.
 func (c *Course) Since(tx int) []int { return slices.Clone(c.done[c.began[tx]:]) }
 
+// AtOnce ran two deals, if neither had committed when the other one began.
+func (c *Course) AtOnce(a, b int) bool { return !c.before(a, b) && !c.before(b, a) }
+
+// before a deal began another one had committed.
+func (c *Course) before(other, tx int) bool {
+	return slices.Contains(c.done[:c.began[tx]], other)
+}
+
 // Read by a deal was this, in its order.
 func (c *Course) Read(tx int) []api.Seen { return slices.Clone(c.read[tx]) }
 

@@ -125,3 +125,43 @@ func TestWhole(t *testing.T) {
 		t.Errorf("got %s", before)
 	}
 }
+
+// TestAtOnce: two ran at once just if neither had committed when the other one began, whichever
+// is named first; so do one that asks to commit and is not done yet, and one that never is.
+func TestAtOnce(t *testing.T) {
+	var told []string
+	all := func(c *course.Course, tx int) string {
+		var with []int
+		for other := 1; other <= api.MaxTx; other++ {
+			if c.AtOnce(tx, other) != c.AtOnce(other, tx) {
+				t.Errorf("%d and %d: got %v, and %v the other way", tx, other, c.AtOnce(tx, other), c.AtOnce(other, tx))
+			}
+			if other != tx && c.AtOnce(tx, other) {
+				with = append(with, other)
+			}
+		}
+		return fmt.Sprint(tx, with)
+	}
+	c, err := course.Whole(ops(t, "r1(a) r2(a) r5(a) r6(a) c2 r3(a) c1 a5 c4 c3"), course.Rules{
+		Sees: func(*course.Course, int, int) int { return 0 },
+		Falls: func(c *course.Course, tx int) bool {
+			if tx > 2 { // all have begun by then
+				told = append(told, all(c, tx))
+			}
+			return tx == 4
+		},
+	})
+	if err != nil {
+		t.Fatal(err)
+	}
+	for tx := 1; tx <= api.MaxTx; tx++ {
+		told = append(told, all(c, tx))
+	}
+	want := []string{
+		"4 [3 5 6]", "3 [1 4 5 6]", // as they ask to commit
+		"1 [2 3 5 6]", "2 [1 5 6]", "3 [1 4 5 6]", "4 [3 5 6]", "5 [1 2 3 4 6]", "6 [1 2 3 4 5]",
+	}
+	if !slices.Equal(told, want) {
+		t.Errorf("got %q, want %q", told, want)
+	}
+}
