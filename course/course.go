@@ -30,7 +30,7 @@ func Run(l []api.Op, rules Rules) (api.Outcome, error) {
 	if err != nil {
 		return api.Outcome{}, err
 	}
-	return c.outcome(), nil
+	return c.Outcome(c.done), nil
 }
 
 // Whole is how a run of ops stands when all of them have come.
@@ -78,13 +78,13 @@ func (c *Course) Written(tx int) []int { return slices.Clone(c.wrote[tx]) }
 func (c *Course) Wrote(tx, item int) bool { return slices.Contains(c.wrote[tx], item) }
 
 // Last who committed, of those that wrote an item; 0, if nobody did.
-func (c *Course) Last(item int) int { return c.lastOf(c.done, item) }
+func (c *Course) Last(item int) int { return c.LastOf(c.done, item) }
 
 // LastBefore is Last as it was when a deal began.
-func (c *Course) LastBefore(tx, item int) int { return c.lastOf(c.done[:c.began[tx]], item) }
+func (c *Course) LastBefore(tx, item int) int { return c.LastOf(c.done[:c.began[tx]], item) }
 
-// lastOf some that committed, in order, who wrote an item; 0, if nobody did.
-func (c *Course) lastOf(some []int, item int) int {
+// LastOf some deals, in the order in which they are handed in, who wrote an item; 0, if nobody did.
+func (c *Course) LastOf(some []int, item int) int {
 	for _, tx := range slices.Backward(some) {
 		if c.Wrote(tx, item) {
 			return tx
@@ -124,13 +124,14 @@ func (c *Course) source(o api.Op) int {
 	return c.rules.Sees(c, o.Tx, o.Item)
 }
 
-func (c *Course) outcome() api.Outcome {
-	out := api.Outcome{Done: c.Done()}
-	for _, tx := range c.done {
+// Outcome as if those that are done stood in this order, which need not be that of their Commits.
+func (c *Course) Outcome(done []int) api.Outcome {
+	out := api.Outcome{Done: slices.Clone(done)}
+	for _, tx := range done {
 		out.Seen = append(out.Seen, c.read[tx]...)
 	}
 	for item := 1; item <= api.MaxItem; item++ {
-		out.Last = append(out.Last, c.Last(item))
+		out.Last = append(out.Last, c.LastOf(done, item))
 	}
 	return out
 }

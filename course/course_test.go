@@ -165,3 +165,64 @@ func TestAtOnce(t *testing.T) {
 		t.Errorf("got %q, want %q", told, want)
 	}
 }
+
+// TestOutcome: those that are done in any order that is handed in: who is done, what they saw, and who wrote
+// each item last, all stand by it. What was handed in is not kept, and not changed.
+func TestOutcome(t *testing.T) {
+	c, err := course.Whole(ops(t, "w3(a) r1(b) w1(a) r3(c) w1(b) r2(a) c3 w2(b) c1 w4(a) r4(b) c2"), course.Rules{
+		Sees:  func(c *course.Course, _, item int) int { return c.Last(item) },
+		Falls: func(*course.Course, int) bool { return false },
+	})
+	if err != nil {
+		t.Fatal(err)
+	}
+	for _, k := range []struct {
+		order []int
+		want  string
+	}{
+		{nil, "{[] [] [0 0 0 0 0 0]}"},
+		{[]int{3, 1, 2}, "{[3 1 2] [{3 3 0} {1 2 0} {2 1 0}] [1 2 0 0 0 0]}"},
+		{[]int{1, 2, 3}, "{[1 2 3] [{1 2 0} {2 1 0} {3 3 0}] [3 2 0 0 0 0]}"},
+		{[]int{2, 3, 1}, "{[2 3 1] [{2 1 0} {3 3 0} {1 2 0}] [1 1 0 0 0 0]}"},
+	} {
+		kept := slices.Clone(k.order)
+		out := c.Outcome(k.order)
+		if fmt.Sprint(out) != k.want {
+			t.Errorf("%v: got %v, want %s", k.order, out, k.want)
+		}
+		clear(out.Done)
+		clear(out.Seen)
+		clear(out.Last)
+		if !slices.Equal(k.order, kept) || fmt.Sprint(c.Outcome(k.order)) != k.want {
+			t.Errorf("%v: again: got %v, want %s", k.order, c.Outcome(k.order), k.want)
+		}
+	}
+}
+
+// TestLastOf: of some deals the last one by their order that wrote an item, whatever became of it.
+func TestLastOf(t *testing.T) {
+	c, err := course.Whole(ops(t, "w1(a) w2(a) w2(b) w3(a) c2 c1 a3"), course.Rules{
+		Sees:  func(*course.Course, int, int) int { return 0 },
+		Falls: func(_ *course.Course, tx int) bool { return tx == 1 },
+	})
+	if err != nil {
+		t.Fatal(err)
+	}
+	for _, k := range []struct {
+		some       []int
+		item, last int
+	}{
+		{nil, 1, 0},
+		{[]int{1, 2, 3}, 1, 3},
+		{[]int{3, 2, 1}, 1, 1},
+		{[]int{2, 3, 1}, 2, 2},
+		{[]int{1, 3}, 2, 0},
+		{[]int{1, 2, 3}, 3, 0},
+		{[]int{4, 2, 5}, 1, 2},
+	} {
+		kept := slices.Clone(k.some)
+		if last := c.LastOf(k.some, k.item); last != k.last || !slices.Equal(k.some, kept) {
+			t.Errorf("%v of %d: got %d, want %d", k.item, kept, last, k.last)
+		}
+	}
+}
